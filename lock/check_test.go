@@ -255,3 +255,21 @@ func TestLK1EachOpNumberAndData(t *testing.T) {
 		}
 	}
 }
+
+// TestLK2CheckKeys: the keys by themselves, with no lock.
+func TestLK2CheckKeys(t *testing.T) {
+	for n, want := range map[int]api.Errno{0: api.OK, 1: api.OK, 30: api.OK, 31: api.ErrFull, 300: api.ErrFull} {
+		if got := CheckKeys(make([][]byte, n)); plain.Told(got) != want {
+			t.Errorf("%d keys: got %v, want %v", n, got, want)
+		}
+	}
+	for size, want := range map[int]api.Errno{0: api.OK, 1: api.OK, 3000: api.OK, 3001: api.ErrFull} {
+		for at := range 3 {
+			keys := make([][]byte, 3)
+			keys[at] = make([]byte, size)
+			if got := CheckKeys(keys); plain.Told(got) != want {
+				t.Errorf("key %d of %d bytes: got %v, want %v", at, size, got, want)
+			}
+		}
+	}
+}
