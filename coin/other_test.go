@@ -7,7 +7,6 @@ import (
 	"math/big"
 	"slices"
 	"strconv"
-	"strings"
 	"testing"
 
 	"moneyer/api"
@@ -51,7 +50,7 @@ func otherAt(cs []api.Coin, p api.Place) int {
 }
 
 func otherCheck(cs []api.Coin) api.Errno {
-	all := []wrong{{len(cs) >= 1001, api.ErrFull}}
+	all := append(make([]wrong, 0, 1+5*len(cs)), wrong{len(cs) >= 1001, api.ErrFull})
 	for i, c := range cs {
 		all = append(all,
 			wrong{i > 0 && otherCompare(cs[max(i, 1)-1].Place, c.Place) != -1, api.ErrTwice},
@@ -62,6 +61,12 @@ func otherCheck(cs []api.Coin) api.Errno {
 		all = append(all, wrong{told != api.OK, told})
 	}
 	return firstOf(all)
+}
+
+// ofSet: what is wrong with a set, as one of the things that may be.
+func ofSet(cs []api.Coin) wrong {
+	told := otherCheck(cs)
+	return wrong{told != api.OK, told}
 }
 
 func otherTotal(outs []api.Out) *big.Int {
@@ -85,7 +90,7 @@ func outsOf(cs []api.Coin) []api.Out {
 }
 
 func otherSum(cs []api.Coin) (int, api.Errno) {
-	if told := firstOf([]wrong{{otherCheck(cs) != api.OK, otherCheck(cs)}, {otherTooMuch(outsOf(cs)), api.ErrFull}}); told != api.OK {
+	if told := firstOf([]wrong{ofSet(cs), {otherTooMuch(outsOf(cs)), api.ErrFull}}); told != api.OK {
 		return 0, told
 	}
 	return int(otherTotal(outsOf(cs)).Int64()), api.OK
@@ -122,7 +127,7 @@ type applied struct {
 
 func otherApply(cs []api.Coin, p api.Tx, height int) applied {
 	all := []wrong{
-		{otherCheck(cs) != api.OK, otherCheck(cs)},
+		ofSet(cs),
 		{tx.Check(p) != nil, plain.Told(tx.Check(p))},
 		{height <= -1 || height >= 1<<30+1, api.ErrRange},
 	}
@@ -157,7 +162,7 @@ func otherApply(cs []api.Coin, p api.Tx, height int) applied {
 
 func otherUndo(cs []api.Coin, p api.Tx, spent []api.Coin) ([]api.Coin, api.Errno) {
 	all := []wrong{
-		{otherCheck(cs) != api.OK, otherCheck(cs)},
+		ofSet(cs),
 		{tx.Check(p) != nil, plain.Told(tx.Check(p))},
 	}
 	set := cs
@@ -177,7 +182,7 @@ func otherUndo(cs []api.Coin, p api.Tx, spent []api.Coin) ([]api.Coin, api.Errno
 	for _, c := range spent {
 		set = otherPut(set, c)
 	}
-	all = append(all, wrong{otherCheck(set) != api.OK, otherCheck(set)})
+	all = append(all, ofSet(set))
 	if told := firstOf(all); told != api.OK {
 		return nil, told
 	}
@@ -185,22 +190,28 @@ func otherUndo(cs []api.Coin, p api.Tx, spent []api.Coin) ([]api.Coin, api.Errno
 }
 
 // outText: all of an out, an empty list and nil being the same.
-func outText(o api.Out) string {
-	var all strings.Builder
-	all.WriteString(strconv.Itoa(o.Amount) + "\n")
+func outText(o api.Out) string { return string(appendOut(nil, o)) }
+
+func appendOut(b []byte, o api.Out) []byte {
+	b = append(strconv.AppendInt(b, int64(o.Amount), 10), '\n')
 	for _, op := range o.Lock {
-		all.WriteString(strconv.Itoa(op.Op) + " " + strconv.Itoa(op.N) + " " + hex.EncodeToString(op.Data) + "\n")
+		b = append(strconv.AppendInt(b, int64(op.Op), 10), ' ')
+		b = append(strconv.AppendInt(b, int64(op.N), 10), ' ')
+		b = append(hex.AppendEncode(b, op.Data), '\n')
 	}
-	return all.String()
+	return b
 }
 
 // text: all of coins, an empty list and nil being the same.
 func text(cs []api.Coin) string {
-	var all strings.Builder
+	b := make([]byte, 0, 150*len(cs))
 	for _, c := range cs {
-		all.WriteString(hex.EncodeToString(c.Place.Tx[:]) + " " + strconv.Itoa(c.Place.At) + " " + strconv.Itoa(c.Height) + " " + outText(c.Out))
+		b = append(hex.AppendEncode(b, c.Place.Tx[:]), ' ')
+		b = append(strconv.AppendInt(b, int64(c.Place.At), 10), ' ')
+		b = append(strconv.AppendInt(b, int64(c.Height), 10), ' ')
+		b = appendOut(b, c.Out)
 	}
-	return all.String()
+	return string(b)
 }
 
 // brief: coins as text, or where it begins.
