@@ -37,7 +37,7 @@ func Apply(cs []api.Coin, t api.Tx, height int) ([]api.Coin, []api.Coin, int, er
 	if len(set) > api.MaxSet {
 		return nil, nil, 0, api.ErrFull
 	}
-	return cloneAll(set), cloneAll(spent), left, nil
+	return CloneAll(set), CloneAll(spent), left, nil
 }
 
 // Undo tells a set ahead of a payment.
@@ -63,7 +63,7 @@ func Undo(cs []api.Coin, t api.Tx, spent []api.Coin) ([]api.Coin, error) {
 	if err := Check(set); err != nil {
 		return nil, err
 	}
-	return cloneAll(set), nil
+	return CloneAll(set), nil
 }
 
 // ownCoins tells the coins that a payment's outs are at a height, or what is wrong with the payment.

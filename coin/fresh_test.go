@@ -273,3 +273,27 @@ func TestP2KeepsNothing(t *testing.T) {
 	cs[1].Place = place(9, 9)
 	applies(t, "a payment, behind another change", cs, p, 4, api.ErrTwice)
 }
+
+// TestP2CloneAll: the same coins, of a set or not, which share nothing with the ones.
+func TestP2CloneAll(t *testing.T) {
+	rich, _ := rich()
+	turned := slices.Clone(rich)
+	slices.Reverse(turned)
+	for _, cs := range [][]api.Coin{nil, {}, rich, turned, setOf(1001, 1), {{Height: -1, Out: pay(-1, op(0))}}} {
+		want := text(cs)
+		set := roomy(cs)
+		one, two := CloneAll(set), CloneAll(set)
+		if text(one) != want || text(two) != want {
+			t.Errorf("got %s, want %s", brief(one), brief(cs))
+		}
+		before := text(whole(set))
+		spoil(one)
+		if text(whole(set)) != before || text(two) != want {
+			t.Error("the coins share memory")
+		}
+		spoil(set)
+		if text(two) != want {
+			t.Error("the coins change with those that were handed in")
+		}
+	}
+}
