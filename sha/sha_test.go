@@ -173,6 +173,24 @@ func TestSA3EmptyPieces(t *testing.T) {
 	holds(t, "Sum of a block, empty, and one", h.Sum(), sha256.Sum256(append(counted(64), 9)))
 }
 
+// TestSA3SumBehind: of a byte and of no part, of one, of several, of empty ones too, as of all in one.
+func TestSA3SumBehind(t *testing.T) {
+	all := counted(150)
+	holds(t, "no parts", SumBehind(7), sha256.Sum256([]byte{7}))
+	for _, first := range []byte{0, 1, 255} {
+		for _, a := range []int{0, 1, 31, 32, 55, 62, 63, 64, 100} {
+			for _, b := range []int{a, a + 1, 101, 150} {
+				got := SumBehind(first, all[:a], nil, all[a:b], []byte{}, all[b:])
+				holds(t, "parts", got, sha256.Sum256(append([]byte{first}, all...)))
+			}
+			holds(t, "one part", SumBehind(first, all[:a]), sha256.Sum256(append([]byte{first}, all[:a]...)))
+		}
+	}
+	if !bytes.Equal(all, counted(150)) {
+		t.Error("what was handed in is written into")
+	}
+}
+
 // TestSA3HashersApart: what one takes is nothing to another one, nor to Sum.
 func TestSA3HashersApart(t *testing.T) {
 	a, b := New(), New()
