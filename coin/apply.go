@@ -5,6 +5,7 @@ import (
 	"slices"
 
 	"moneyer/api"
+	"moneyer/size"
 	"moneyer/tx"
 )
 
@@ -17,7 +18,7 @@ func Apply(cs []api.Coin, t api.Tx, height int) ([]api.Coin, []api.Coin, int, er
 	if err != nil {
 		return nil, nil, 0, err
 	}
-	if !isHeight(height) {
+	if !size.Within(height, api.MaxHeight) {
 		return nil, nil, 0, api.ErrRange
 	}
 	spent, err := spentBy(t, cs)

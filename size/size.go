@@ -75,6 +75,9 @@ func Unpack(b []byte, at int) ([]byte, int, error) {
 	return bytes.Clone(b[start:end]), end, nil
 }
 
+// Within tells if a number is from 0 to the most that it may be.
+func Within(n, most int) bool { return n >= 0 && n <= most }
+
 // firstOf tells the byte with which a number begins where it is written as short as can be.
 func firstOf(n uint64) byte {
 	switch {

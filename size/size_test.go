@@ -280,3 +280,27 @@ func FuzzReadWrite(f *testing.F) {
 		}
 	})
 }
+
+// TestWithin: from 0 to the most, both of them too, and nothing on either side; nothing is from 0 to a most below 0.
+func TestWithin(t *testing.T) {
+	for _, most := range []int{0, 1, 39, 40, 1 << 30, math.MaxInt - 1, math.MaxInt} {
+		for _, n := range []int{0, most / 2, max(most-1, 0), most} {
+			if !Within(n, most) {
+				t.Errorf("Within(%d, %d): got false", n, most)
+			}
+		}
+		for _, n := range []int{-1, -2, -most - 1, math.MinInt32, math.MinInt} {
+			if Within(n, most) {
+				t.Errorf("Within(%d, %d): got true", n, most)
+			}
+		}
+		if most < math.MaxInt && (Within(most+1, most) || Within(math.MaxInt, most)) {
+			t.Errorf("Within tells true of more than %d", most)
+		}
+	}
+	for _, n := range []int{-2, -1, 0, 1, math.MinInt, math.MaxInt} {
+		if Within(n, -1) || Within(n, math.MinInt) {
+			t.Errorf("Within tells true of %d, which is not from 0 to a number below 0", n)
+		}
+	}
+}
